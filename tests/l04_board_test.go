@@ -73,10 +73,16 @@ func putByHand(b impl.Board, u impl.Unit) (impl.Board, bool) {
 
 // copyOf has also what lies behind the ends of the lists, so that a change there is seen.
 func copyOf(b impl.Board) impl.Board {
-	return impl.Board{
-		Units:  slices.Clone(b.Units[:cap(b.Units)])[:len(b.Units)],
-		Fields: slices.Clone(b.Fields[:cap(b.Fields)])[:len(b.Fields)],
+	return impl.Board{Units: wholeCopy(b.Units), Fields: wholeCopy(b.Fields)}
+}
+
+func wholeCopy[T any](list []T) []T {
+	if list == nil {
+		return nil
 	}
+	whole := make([]T, cap(list))
+	copy(whole, list[:cap(list)])
+	return whole[:len(list)]
 }
 
 func sameLists(a impl.Board, b impl.Board) bool {
