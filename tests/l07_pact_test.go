@@ -483,20 +483,7 @@ func pactAnswers(w impl.World) []any {
 }
 
 func TestAnswersOfPactsHangOnArgumentsAlone(t *testing.T) {
-	worlds := append(mendedWorlds(100), faultyWorlds()...)
-	first := make([][]any, len(worlds))
-	for i, w := range worlds {
-		was := copyOfWorld(w)
-		first[i] = pactAnswers(w)
-		if !sameByHand(fullOf(w), fullOf(was)) {
-			t.Errorf("changed: %+v", was)
-		}
-	}
-	for i := len(worlds) - 1; i >= 0; i-- {
-		if again := pactAnswers(copyOfWorld(worlds[i])); !reflect.DeepEqual(again, first[i]) {
-			t.Errorf("another answer of %+v", worlds[i])
-		}
-	}
+	checkArgumentsAlone(t, append(mendedWorlds(100), faultyWorlds()...), pactAnswers)
 }
 
 func TestAnswersOfPactsAreNewMemory(t *testing.T) {
@@ -509,6 +496,24 @@ func TestAnswersOfPactsAreNewMemory(t *testing.T) {
 					checkNewWorld(t, w, func(w impl.World) impl.WorldResult { return c.call(w, a, b) })
 				}
 			}
+		}
+	}
+}
+
+// checkArgumentsAlone asks for the same answers again, of copies and in another order, and that no world is changed.
+func checkArgumentsAlone(t *testing.T, worlds []impl.World, answers func(w impl.World) []any) {
+	t.Helper()
+	first := make([][]any, len(worlds))
+	for i, w := range worlds {
+		was := copyOfWorld(w)
+		first[i] = answers(w)
+		if !sameByHand(fullOf(w), fullOf(was)) {
+			t.Errorf("changed: %+v", was)
+		}
+	}
+	for i := len(worlds) - 1; i >= 0; i-- {
+		if again := answers(copyOfWorld(worlds[i])); !reflect.DeepEqual(again, first[i]) {
+			t.Errorf("another answer of %+v", worlds[i])
 		}
 	}
 }

@@ -860,19 +860,7 @@ func giftAnswers(w impl.World, calls []giftCall) []any {
 func TestAnswersOfGiftsHangOnArgumentsAlone(t *testing.T) {
 	calls := giftCalls([]int64{0, 1, 500}, []int64{2, 5, 9})
 	worlds := append(mendedWorlds(60), faultyWorlds()...)
-	first := make([][]any, len(worlds))
-	for i, w := range worlds {
-		was := copyOfWorld(w)
-		first[i] = giftAnswers(w, calls)
-		if !sameByHand(fullOf(w), fullOf(was)) {
-			t.Errorf("changed: %+v", was)
-		}
-	}
-	for i := len(worlds) - 1; i >= 0; i-- {
-		if again := giftAnswers(copyOfWorld(worlds[i]), calls); !reflect.DeepEqual(again, first[i]) {
-			t.Errorf("another answer of %+v", worlds[i])
-		}
-	}
+	checkArgumentsAlone(t, worlds, func(w impl.World) []any { return giftAnswers(w, calls) })
 }
 
 func TestAnswersOfGiftsAreNewMemory(t *testing.T) {
