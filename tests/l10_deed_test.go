@@ -982,6 +982,20 @@ func listsOf(w impl.World) []impl.World {
 	}
 }
 
+// checkListsApart spoils the lists of an answer one by one, and asks that no list behind turns.
+func checkListsApart(t *testing.T, answer impl.World) {
+	t.Helper()
+	lists, was := listsOf(answer), listsOf(copyOfWorld(answer))
+	for i := range lists {
+		spoilWorld(lists[i])
+		for j := i + 1; j < len(lists); j++ {
+			if !sameByHand(fullOf(lists[j]), fullOf(was[j])) {
+				t.Fatalf("lists %d and %d share memory: %+v", i, j, answer)
+			}
+		}
+	}
+}
+
 func TestListsOfADeedAreApart(t *testing.T) {
 	for _, w := range append(sayingWorlds(30), busyWorld()) {
 		answers := []impl.World{impl.TickWorld(w).World, impl.DoAll(w, manySayings()).World, impl.DoAll(w, nil).World}
@@ -989,15 +1003,7 @@ func TestListsOfADeedAreApart(t *testing.T) {
 			answers = append(answers, impl.DoCommand(w, c).World)
 		}
 		for _, answer := range answers {
-			lists, was := listsOf(answer), listsOf(copyOfWorld(answer))
-			for i := range lists {
-				spoilWorld(lists[i])
-				for j := i + 1; j < len(lists); j++ {
-					if !sameByHand(fullOf(lists[j]), fullOf(was[j])) {
-						t.Fatalf("lists %d and %d share memory: %+v", i, j, answer)
-					}
-				}
-			}
+			checkListsApart(t, answer)
 		}
 	}
 }
